@@ -233,16 +233,14 @@ func TestRenamedNeedsEachClaimOnce(t *testing.T) {
 }
 
 func TestNamesDoNotMatter(t *testing.T) {
-	for i, g := range sampleGraphs() {
+	for _, g := range sampleGraphs() {
 		for _, to := range orders(g.N) {
 			renamed, ok := impl.Renamed(g, to)
 			if !ok {
 				t.Fatalf("Renamed(%v, %v) is false", g, to)
 			}
 			expectSameSets(t, g, renamed, to)
-			if i%3 == 0 || g.N > 3 {
-				expectSameClaims(t, g, renamed, to)
-			}
+			expectSameClaims(t, g, renamed, to)
 		}
 	}
 }
